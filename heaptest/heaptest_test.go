@@ -1,0 +1,243 @@
+package heaptest_test
+
+import (
+	"runtime"
+	"slices"
+	"sync"
+	"testing"
+
+	"thicket/api"
+	"thicket/arena"
+	"thicket/heaptest"
+	"thicket/item"
+	"thicket/leftist"
+)
+
+// told is what a test says of a kind.
+type told struct {
+	failed bool
+}
+
+func (f *told) Helper()               {}
+func (f *told) Failed() bool          { return f.failed }
+func (f *told) Errorf(string, ...any) { f.failed = true }
+func (f *told) Fatalf(string, ...any) {
+	f.failed = true
+	runtime.Goexit()
+}
+
+// fails tells whether a kind fails a test. The test has a goroutine of its own, for it may end at any place.
+func fails(test heaptest.Test, k heaptest.Kind) bool {
+	f := &told{}
+	var wait sync.WaitGroup
+	wait.Go(func() { test.Run(f, k) })
+	wait.Wait()
+	return f.failed
+}
+
+// sound is a kind that is as it must be. Of its shape it says nothing.
+func sound() heaptest.Kind {
+	return heaptest.Kind{
+		Chapter: "P0",
+		Push:    leftist.Push, Min: leftist.Min, Pop: leftist.Pop, Fall: leftist.Fall,
+		Cut: leftist.Cut, Meld: leftist.Meld, All: leftist.All, Drop: leftist.Drop,
+		Shape: func(w *heaptest.Wood, what string, r int) int { return len(leftist.All(w.A, r)) },
+		Most:  heaptest.Most,
+	}
+}
+
+func TestSoundKind(t *testing.T) {
+	for _, test := range heaptest.Tests() {
+		if fails(test, sound()) {
+			t.Errorf("%s: a kind that is as it must be fails", test.Name)
+		}
+	}
+}
+
+// mustTell makes a sound kind faulty, and sees that a test tells it.
+func mustTell(t *testing.T, what string, spoil func(k *heaptest.Kind)) {
+	t.Helper()
+	k := sound()
+	spoil(&k)
+	if !slices.ContainsFunc(heaptest.Tests(), func(test heaptest.Test) bool { return fails(test, k) }) {
+		t.Errorf("%s: no test fails", what)
+	}
+}
+
+func TestFaultsOfPush(t *testing.T) {
+	mustTell(t, "Push tells false", func(k *heaptest.Kind) {
+		k.Push = func(a *arena.Arena, r, i int) (int, bool) {
+			r, _ = leftist.Push(a, r, i)
+			return r, false
+		}
+	})
+	mustTell(t, "Push without a cell tells None", func(k *heaptest.Kind) {
+		k.Push = func(a *arena.Arena, r, i int) (int, bool) {
+			if s, ok := leftist.Push(a, r, i); ok {
+				return s, true
+			}
+			return api.None, false
+		}
+	})
+	mustTell(t, "Push changes the item", func(k *heaptest.Kind) {
+		k.Push = func(a *arena.Arena, r, i int) (int, bool) {
+			if a != nil {
+				a.Set(i, api.Mark, 1)
+			}
+			return leftist.Push(a, r, i)
+		}
+	})
+	mustTell(t, "Push takes too many steps", func(k *heaptest.Kind) {
+		k.Push = func(a *arena.Arena, r, i int) (int, bool) {
+			if a != nil {
+				a.Meter().Tick(10 * api.A)
+			}
+			return leftist.Push(a, r, i)
+		}
+	})
+}
+
+func TestFaultsOfMin(t *testing.T) {
+	mustTell(t, "Min tells the last item", func(k *heaptest.Kind) {
+		k.Min = func(a *arena.Arena, r int) int {
+			if l := leftist.All(a, r); len(l) > 0 {
+				return l[len(l)-1]
+			}
+			return api.None
+		}
+	})
+	mustTell(t, "Min panics", func(k *heaptest.Kind) {
+		k.Min = func(a *arena.Arena, r int) int {
+			if r > api.MaxCells && a != nil {
+				panic("so great a root")
+			}
+			return leftist.Min(a, r)
+		}
+	})
+}
+
+func TestFaultsOfPop(t *testing.T) {
+	mustTell(t, "Pop gives the item back", func(k *heaptest.Kind) {
+		k.Pop = func(a *arena.Arena, r int) (int, int) {
+			r, i := leftist.Pop(a, r)
+			if a != nil {
+				a.Give(i)
+			}
+			return r, i
+		}
+	})
+	mustTell(t, "Pop leaves a Node", func(k *heaptest.Kind) {
+		k.Pop = func(a *arena.Arena, r int) (int, int) {
+			s, i := leftist.Pop(a, r)
+			if a != nil {
+				a.Set(i, api.Node, int64(r))
+			}
+			return s, i
+		}
+	})
+	mustTell(t, "Pop keeps the node", func(k *heaptest.Kind) {
+		k.Pop = func(a *arena.Arena, r int) (int, int) {
+			r, i := leftist.Pop(a, r)
+			if a != nil && i != api.None {
+				a.Take()
+			}
+			return r, i
+		}
+	})
+	mustTell(t, "Pop of None tells 0", func(k *heaptest.Kind) {
+		k.Pop = func(a *arena.Arena, r int) (int, int) {
+			r, i := leftist.Pop(a, r)
+			return r, max(i, 0)
+		}
+	})
+}
+
+func TestFaultsOfFallAndCut(t *testing.T) {
+	mustTell(t, "Fall does nothing", func(k *heaptest.Kind) {
+		k.Fall = func(a *arena.Arena, r, i int) int {
+			if a == nil {
+				return api.None
+			}
+			return r
+		}
+	})
+	mustTell(t, "Cut does nothing", func(k *heaptest.Kind) {
+		k.Cut = func(a *arena.Arena, r, i int) int {
+			if a == nil {
+				return api.None
+			}
+			return r
+		}
+	})
+	mustTell(t, "Cut pops", func(k *heaptest.Kind) {
+		k.Cut = func(a *arena.Arena, r, i int) int {
+			r, _ = leftist.Pop(a, r)
+			return r
+		}
+	})
+}
+
+func TestFaultsOfMeld(t *testing.T) {
+	mustTell(t, "Meld forgets a heap", func(k *heaptest.Kind) {
+		k.Meld = func(a *arena.Arena, r, s int) int {
+			if a == nil || s == api.None {
+				return leftist.Meld(a, r, s)
+			}
+			return s
+		}
+	})
+	mustTell(t, "Meld changes a third heap", func(k *heaptest.Kind) {
+		k.Meld = func(a *arena.Arena, r, s int) int {
+			r = leftist.Meld(a, r, s)
+			if a != nil {
+				a.Set(item.Node(a, 120), api.Mark, 1) // of the third heap, where there is one
+			}
+			return r
+		}
+	})
+}
+
+func TestFaultsOfAllAndDrop(t *testing.T) {
+	mustTell(t, "All is not in order", func(k *heaptest.Kind) {
+		k.All = func(a *arena.Arena, r int) []int {
+			l := leftist.All(a, r)
+			slices.Reverse(l)
+			return l
+		}
+	})
+	mustTell(t, "All tells its memory again", func(k *heaptest.Kind) {
+		var kept []int
+		k.All = func(a *arena.Arena, r int) []int {
+			kept = append(kept[:0], leftist.All(a, r)...)
+			return kept
+		}
+	})
+	mustTell(t, "All tells what it told", func(k *heaptest.Kind) {
+		var kept []int
+		k.All = func(a *arena.Arena, r int) []int {
+			if l := leftist.All(a, r); len(l) != len(kept) {
+				kept = l
+			}
+			return kept
+		}
+	})
+	mustTell(t, "Drop keeps the nodes", func(k *heaptest.Kind) { k.Drop = leftist.All })
+}
+
+func TestFaultsOfTheShape(t *testing.T) {
+	mustTell(t, "a field that no call sets", func(k *heaptest.Kind) {
+		k.Shape = func(w *heaptest.Wood, what string, r int) int {
+			if r != api.None {
+				row := w.Row(r)
+				w.Node(what, r, heaptest.Links{Up: api.None, Down: 0, Left: row[api.Left], Right: row[api.Right], Rank: row[api.Rank]})
+			}
+			return len(leftist.All(w.A, r))
+		}
+	})
+	mustTell(t, "a node too few", func(k *heaptest.Kind) {
+		k.Shape = func(w *heaptest.Wood, what string, r int) int { return len(leftist.All(w.A, r)) / 2 }
+	})
+	mustTell(t, "a lower limit of steps", func(k *heaptest.Kind) {
+		k.Most = func(call string, n int) int64 { return heaptest.Most(call, n) / 50 }
+	})
+}
