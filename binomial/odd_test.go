@@ -1,14 +1,11 @@
 package binomial_test
 
 import (
-	"slices"
 	"testing"
 
 	"thicket/api"
-	"thicket/arena"
 	"thicket/binomial"
 	"thicket/heaptest"
-	"thicket/item"
 )
 
 // What is another heap's, and a heap's own top nodes as another heap's root: these can be told, so heaps stay as they are.
@@ -32,30 +29,6 @@ func TestOfAnotherHeap(t *testing.T) {
 		})
 		w.Right("calls of what is another heap's")
 	}
-}
-
-// A root that is over may be the cell that a Push takes: it must not be taken as a heap's then.
-func TestPushToTheCellThatIsTaken(t *testing.T) {
-	w := heaptest.Grown(t, kind(), heaptest.Drawn(9)...)
-	w.Drop(0)
-	i := w.Fresh(3, 3)
-	next, _ := w.A.Take()
-	w.A.Give(next)
-	r, ok := binomial.Push(w.A, next, i)
-	if l := binomial.All(w.A, r); !ok || !slices.Equal(l, []int{i}) {
-		t.Errorf("Push to %d, which is not taken: %v %t, must be %d alone", next, l, ok, i)
-	}
-	w.Root[0], w.Has[0], w.Out = r, []int{i}, slices.DeleteFunc(w.Out, func(j int) bool { return i == j })
-	w.Right("Push to a cell that is not taken")
-}
-
-// turned is nodes, the first of them a root; links are set behind one another.
-func turned(n int, links ...[3]int) *arena.Arena {
-	a := heaptest.Nodes(n)
-	for _, l := range links {
-		a.Set(l[0], l[1], int64(l[2]))
-	}
-	return a
 }
 
 // Links and Ranks as no heap has them: calls must end all the same.
@@ -83,23 +56,7 @@ func TestLinksOfNoHeap(t *testing.T) {
 		"a top node that is not taken":       {{4, api.Right, 9}, {5, api.Right, 11}},
 		"a top node whose item is elsewhere": {{4, api.Right, 5}, {5, api.Rank, 1}, {1, api.Node, 7}},
 	} {
-		for r := range 2 * n {
-			if l := binomial.All(turned(n, links...), r); len(slices.Compact(slices.Clone(l))) != len(l) {
-				t.Errorf("%s: All of %d tells an item twice: %v", what, r, l)
-			}
-			for x := range 2 * n {
-				heaptest.Ends(t, what, func() {
-					a := turned(n, links...)
-					item.Lower(a, x, heaptest.Lowest)
-					binomial.Fall(a, r, x)
-					kind().Every(a, r, x)
-					a = turned(n, links...)
-					s := binomial.Meld(a, r, x)
-					s, _ = binomial.Pop(a, s)
-					kind().Every(a, s, x)
-				})
-			}
-		}
+		heaptest.LinksOfNoHeap(t, kind(), n, what, links...)
 	}
 }
 

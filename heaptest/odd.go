@@ -1,6 +1,7 @@
 package heaptest
 
 import (
+	"slices"
 	"strconv"
 
 	"thicket/api"
@@ -197,6 +198,23 @@ func oneTwice(t T, k Kind) {
 	}
 }
 
+// A root that is over may be the cell that a Push takes: it must not be taken as a heap's then.
+func pushToTheCellThatIsTaken(t T, k Kind) {
+	for n := range 20 {
+		w := Grown(t, k, Drawn(n)...)
+		w.Drop(0)
+		i := w.Fresh(3, 3)
+		next, _ := w.A.Take()
+		w.A.Give(next)
+		r, ok := k.Push(w.A, next, i)
+		if l := k.All(w.A, r); !ok || !slices.Equal(l, []int{i}) {
+			t.Errorf("Push to %d, which is not taken: %v %t, must be %d alone", next, l, ok, i)
+		}
+		w.Root[0], w.Has[0], w.Out = r, []int{i}, without(w.Out, i)
+		w.Right("Push to a cell that is not taken")
+	}
+}
+
 // Nodes are n cells, 0 to n - 1, that are items, and n more, each the node of one of them.
 func Nodes(n int) *arena.Arena {
 	a := arena.New(3 * n)
@@ -208,6 +226,37 @@ func Nodes(n int) *arena.Arena {
 		item.Put(a, node, c)
 	}
 	return a
+}
+
+// Turned are Nodes of which links were set, one behind the other: cell, field, what it has there.
+func Turned(n int, links ...[3]int) *arena.Arena {
+	a := Nodes(n)
+	for _, l := range links {
+		a.Set(l[0], l[1], int64(l[2]))
+	}
+	return a
+}
+
+// LinksOfNoHeap runs calls of n nodes whose links and Ranks are as no heap has them: they must end, and All tells no item twice.
+func LinksOfNoHeap(t T, k Kind, n int, what string, links ...[3]int) {
+	t.Helper()
+	for r := range 2 * n {
+		if l := k.All(Turned(n, links...), r); len(slices.Compact(slices.Clone(l))) != len(l) {
+			t.Errorf("%s: All of %d tells an item twice: %v", what, r, l)
+		}
+		for x := range 2 * n {
+			Ends(t, what, func() {
+				a := Turned(n, links...)
+				item.Lower(a, x, Lowest)
+				k.Fall(a, r, x)
+				k.Every(a, r, x)
+				a = Turned(n, links...)
+				s := k.Meld(a, r, x)
+				s, _ = k.Pop(a, s)
+				k.Every(a, s, x)
+			})
+		}
+	}
 }
 
 // Links that lead round, with links back or without, and with a way in or without: no heap has them, but calls must end.

@@ -32,7 +32,8 @@ func ofGreat() []Test {
 func ofOdd() []Test {
 	return []Test{
 		{"NilArena", nilArena}, {"NoCells", noCells}, {"AnyInt", anyInt}, {"AnyCell", anyCell},
-		{"RootsThatAreOver", rootsThatAreOver}, {"CellsThatAreNoRoot", cellsThatAreNoRoot}, {"OneTwice", oneTwice}, {"LinksThatLeadRound", linksThatLeadRound},
+		{"RootsThatAreOver", rootsThatAreOver}, {"CellsThatAreNoRoot", cellsThatAreNoRoot}, {"OneTwice", oneTwice},
+		{"PushToTheCellThatIsTaken", pushToTheCellThatIsTaken}, {"LinksThatLeadRound", linksThatLeadRound},
 		{"BrokenHeaps", brokenHeaps}, {"CellsOfAnything", cellsOfAnything},
 	}
 }
