@@ -54,6 +54,49 @@ func TestSoundKind(t *testing.T) {
 	}
 }
 
+// together is a sound kind of which a Push now and then takes more steps than it may, but never all calls more than they may together.
+func together() heaptest.Kind {
+	k := sound()
+	k.Together = true
+	k.Push = func(a *arena.Arena, r, i int) (int, bool) {
+		if a != nil && a.Len()%16 == 15 {
+			a.Meter().Tick(6 * api.A)
+		}
+		return leftist.Push(a, r, i)
+	}
+	return k
+}
+
+func TestStepsTogether(t *testing.T) {
+	for _, test := range heaptest.Tests() {
+		if fails(test, together()) {
+			t.Errorf("%s: a kind whose steps are held together fails", test.Name)
+		}
+	}
+	mustTell(t, "a call takes too many steps", func(k *heaptest.Kind) {
+		*k = together()
+		k.Together = false
+	})
+	mustTell(t, "all calls take too many steps", func(k *heaptest.Kind) {
+		*k = together()
+		k.Fall = func(a *arena.Arena, r, i int) int {
+			if a != nil {
+				a.Meter().Tick(10 * api.A)
+			}
+			return leftist.Fall(a, r, i)
+		}
+	})
+	mustTell(t, "Min takes steps that others left", func(k *heaptest.Kind) {
+		*k = together()
+		k.Min = func(a *arena.Arena, r int) int {
+			if a != nil && a.Len() > 30 {
+				a.Meter().Tick(10 * api.A)
+			}
+			return leftist.Min(a, r)
+		}
+	})
+}
+
 // mustTell makes a sound kind faulty, and sees that a test tells it.
 func mustTell(t *testing.T, what string, spoil func(k *heaptest.Kind)) {
 	t.Helper()

@@ -147,15 +147,34 @@ func cellsThatAreNoRoot(t T, k Kind) {
 	w.Add(0, Drawn(13)...)
 	w.Add(1, Drawn(7)...)
 	w.Fresh(0, 0)
+	w.Pop(0) // pushes alone may leave all nodes with nothing above
+	w.Pop(1)
+	var no []int
+	for c := range w.A.Cells() {
+		if w.A.Cell(c, api.Up) != api.None || w.A.Cell(c, api.Item) == api.None {
+			no = append(no, c)
+		}
+	}
 	w.Stay("calls of no root", func() {
-		for c := range w.A.Cells() {
-			if w.A.Cell(c, api.Up) == api.None && w.A.Cell(c, api.Item) != api.None {
-				continue
-			}
+		for _, c := range no {
 			w.noRoot(c)
 		}
 	})
 	w.Right("calls of no root")
+	i := w.Fresh(Lowest, 0)
+	for _, c := range no {
+		w.pushToNoRoot(c, i)
+	}
+}
+
+// pushToNoRoot pushes an item to a cell that is no root: it is a heap by itself then.
+func (w *Wood) pushToNoRoot(c, i int) {
+	w.Helper()
+	r, ok := w.Kind.Push(w.A, c, i)
+	if l := w.Kind.Drop(w.A, r); !ok || !slices.Equal(l, []int{i}) {
+		w.Errorf("Push to cell %d, no root: %v %t, must be %d alone", c, l, ok, i)
+	}
+	w.Right("Push to no root")
 }
 
 func (w *Wood) noRoot(c int) {

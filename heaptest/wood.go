@@ -31,6 +31,8 @@ type Kind struct {
 	Drop    func(a *arena.Arena, r int) []int
 	Shape   func(w *Wood, what string, r int) int // how many nodes there are from a root on; fails if they have not the shape
 	Most    func(call string, n int) int64        // how many steps a call of a heap of n items may take
+
+	Together bool // steps are held against what all calls so far may take together
 }
 
 // Most is what P8.2 allows a call of a heap of n items, but for what a kind says of its own.
@@ -50,6 +52,8 @@ type Wood struct {
 	Has   [][]int
 	Out   []int
 	Great bool // too great to look at all cells at each call
+
+	spent, most int64 // steps of calls that are held together, and how many they may take
 }
 
 // Plant is a wood of some heaps of no items.
@@ -142,10 +146,18 @@ func (w *Wood) Within(call string, n int, run func()) {
 	w.Helper()
 	was := w.A.Meter().Steps()
 	run()
-	if got, most := w.A.Meter().Steps()-was, w.Kind.Most(call, n); got > most {
+	got, most := w.A.Meter().Steps()-was, w.Kind.Most(call, n)
+	if w.Kind.Together && !byItself(call) {
+		w.spent, w.most = w.spent+got, w.most+most
+		got, most = w.spent, w.most
+	}
+	if got > most {
 		w.Errorf("%s, steps: %s of %d items: %d, at most %d", w.Kind.Chapter, call, n, got, most)
 	}
 }
+
+// byItself tells whether a call is held against its own steps even where others are held together: it leaves no work for a later one, so what it may take and does not must not be lent to them.
+func byItself(call string) bool { return call == "Min" || call == "All" || call == "Drop" }
 
 // changing stands for a Node that a call may change.
 const changing = Lowest
@@ -333,7 +345,7 @@ func (w *Wood) Right(what string) {
 
 // Links are what the shape says of a node.
 type Links struct {
-	Up, Down, Left, Right, Rank int64
+	Up, Down, Left, Right, Rank, Mark int64
 }
 
 // Node sees that a cell is a node of these links, with an item of its own that is behind the one above it, and else as it was taken. Fields are asked by Get, for Cell tells None of any number that is no cell.
@@ -343,7 +355,7 @@ func (w *Wood) Node(what string, n int, links Links) {
 	i := row[api.Item]
 	want := [api.Fields]int64{
 		api.Up: links.Up, api.Down: links.Down, api.Left: links.Left, api.Right: links.Right,
-		api.Rank: links.Rank, api.Item: i, api.Node: api.None,
+		api.Rank: links.Rank, api.Mark: links.Mark, api.Item: i, api.Node: api.None,
 	}
 	if !w.A.Live(n) || row != want {
 		w.Fatalf("%s, shape: %s: node %d: %v, must be %v", w.Kind.Chapter, what, n, row, want)
