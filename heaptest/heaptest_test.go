@@ -97,6 +97,35 @@ func TestStepsTogether(t *testing.T) {
 	})
 }
 
+// How many items each call is held against: those of its heaps, or of all heaps of the arena.
+func TestCount(t *testing.T) {
+	for shared, want := range map[bool][]int{
+		false: {1, 1, 2, 1, 2, 2, 2, 2, 1, 1, 0, 0, 1, 1, 1},
+		true:  {1, 2, 3, 4, 4, 4, 3, 3, 2, 2, 2, 2, 2, 2, 2},
+	} {
+		var got []int
+		k := sound()
+		k.Shared = shared
+		k.Most = func(call string, n int) int64 {
+			got = append(got, n)
+			return heaptest.Most(call, n)
+		}
+		w := heaptest.Plant(t, k, 8, 3)
+		w.Add(2, 1)
+		w.Add(0, 5, 6)
+		w.Add(1, 7)
+		w.Fall(0, w.Has[0][0], 4)
+		w.Pop(0)
+		w.Meld(0, 1)
+		w.Cut(0, w.Has[0][1])
+		w.Right("one item in each of two heaps") // All and Min of each of three
+		w.Drop(0)
+		if !slices.Equal(got, want) {
+			t.Errorf("calls are held against %v, must be %v", got, want)
+		}
+	}
+}
+
 // mustTell makes a sound kind faulty, and sees that a test tells it.
 func mustTell(t *testing.T, what string, spoil func(k *heaptest.Kind)) {
 	t.Helper()

@@ -33,6 +33,7 @@ type Kind struct {
 	Most    func(call string, n int) int64        // how many steps a call of a heap of n items may take
 
 	Together bool // steps are held against what all calls so far may take together
+	Shared   bool // what a call may take hangs on how many items all heaps of the arena have
 }
 
 // Most is what P8.2 allows a call of a heap of n items, but for what a kind says of its own.
@@ -202,13 +203,20 @@ func (w *Wood) mustKeep(call string, was map[int][api.Fields]int64) {
 // call runs one of these heaps, and sees that it takes no more steps than it may of all their items, and leaves alone what is not theirs.
 func (w *Wood) call(call string, run func(), heaps ...int) {
 	w.Helper()
-	n := 0
-	for _, h := range heaps {
-		n += len(w.Has[h])
-	}
 	was := w.kept(heaps...)
-	w.Within(call, n, run)
+	w.Within(call, w.count(heaps...), run)
 	w.mustKeep(call, was)
+}
+
+// count is how many items a call of these heaps is held against.
+func (w *Wood) count(heaps ...int) int {
+	n := 0
+	for h, l := range w.Has {
+		if w.Kind.Shared || slices.Contains(heaps, h) {
+			n += len(l)
+		}
+	}
+	return n
 }
 
 // without is a list of the plain answer but for one item; the list itself is over.
@@ -325,12 +333,12 @@ func (w *Wood) Right(what string) {
 	for h, l := range w.Has {
 		cells += 2 * len(l)
 		var all []int
-		w.Within("All", len(l), func() { all = w.Kind.All(w.A, w.Root[h]) })
+		w.Within("All", w.count(h), func() { all = w.Kind.All(w.A, w.Root[h]) })
 		if want := slices.Sorted(slices.Values(l)); !slices.Equal(all, want) {
 			w.Fatalf("%s: %s: All of heap %d: %v, must be %v", w.Kind.Chapter, what, h, all, want)
 		}
 		got := api.None
-		w.Within("Min", len(l), func() { got = w.Kind.Min(w.A, w.Root[h]) })
+		w.Within("Min", w.count(h), func() { got = w.Kind.Min(w.A, w.Root[h]) })
 		if want := w.Least(h); got != want {
 			w.Fatalf("%s: %s: Min of heap %d: %d, must be %d", w.Kind.Chapter, what, h, got, want)
 		}
